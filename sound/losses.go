@@ -1,0 +1,43 @@
+package sound
+
+import "flyover/api"
+
+// checkFactor returns ErrRange for a factor, or a weight, that is not from 0 to Whole, or OK.
+func checkFactor(n int) api.Errno {
+	return within(n, 0, Whole)
+}
+
+// checkInterval returns the first error of an interval whose ends a check examines, or OK.
+func checkInterval(x api.Interval, check func(int) api.Errno) api.Errno {
+	if e := first(check(x.Low), check(x.High)); e != api.OK {
+		return e
+	}
+	if x.Low > x.High {
+		return api.ErrOrder
+	}
+	return api.OK
+}
+
+// Weighted returns a spectrum times weights.
+func Weighted(s api.Spectrum, weights [api.MaxBands]int) (api.Spectrum, api.Errno) {
+	if e := first(firstIn(s[:], CheckEnergy), firstIn(weights[:], checkFactor)); e != api.OK {
+		return api.Spectrum{}, e
+	}
+	var changed api.Spectrum
+	copy(changed[:], s[:])
+	for i, w := range weights {
+		changed[i] = rounded(changed[i]*w, Whole)
+	}
+	return changed, api.OK
+}
+
+// Through returns what is left of the energies of an interval.
+func Through(e, factor api.Interval) (api.Interval, api.Errno) {
+	if no := first(checkInterval(e, CheckEnergy), checkInterval(factor, checkFactor)); no != api.OK {
+		return api.Interval{}, no
+	}
+	return api.Interval{
+		Low:  e.Low * factor.Low / Whole,
+		High: (e.High*factor.High + Whole - 1) / Whole,
+	}, api.OK
+}
