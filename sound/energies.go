@@ -5,6 +5,8 @@ import (
 	"sort"
 
 	"flyover/api"
+	"flyover/check"
+	"flyover/list"
 )
 
 // steps has the thresholds of the first ten levels; those of each further ten are ten times as high.
@@ -26,11 +28,11 @@ func penalties() []penalty {
 
 // CheckEnergy returns the first error of an energy, or OK.
 func CheckEnergy(e int) api.Errno {
-	return within(e, 0, api.MaxEnergy)
+	return check.Within(e, 0, api.MaxEnergy)
 }
 
 func checkEnergies(l []int) api.Errno {
-	return first(atMost(l, MaxCells), firstIn(l, CheckEnergy))
+	return check.First(check.AtMost(l, MaxCells), check.Each(l, CheckEnergy))
 }
 
 // threshold returns that of a level from 0 to MaxLevel.
@@ -44,7 +46,7 @@ func threshold(level int) int {
 
 // Threshold returns the threshold of a level.
 func Threshold(level int) (int, api.Errno) {
-	if e := within(level, 0, api.MaxLevel); e != api.OK {
+	if e := check.Within(level, 0, api.MaxLevel); e != api.OK {
 		return 0, e
 	}
 	return threshold(level), api.OK
@@ -62,7 +64,7 @@ func Level(e int) (int, api.Errno) {
 
 // Range returns the energies that have a level.
 func Range(level int) (api.Interval, api.Errno) {
-	if e := within(level, None, api.MaxLevel); e != api.OK {
+	if e := check.Within(level, None, api.MaxLevel); e != api.OK {
 		return api.Interval{}, e
 	}
 	x := api.Interval{High: api.MaxEnergy}
@@ -105,7 +107,7 @@ func checkTicks(ticks []int, n int) api.Errno {
 	if len(ticks) != n {
 		return api.ErrShape
 	}
-	return firstIn(ticks, func(t int) api.Errno { return within(t, 0, Day) })
+	return check.Each(ticks, func(t int) api.Errno { return check.Within(t, 0, Day) })
 }
 
 // rounded returns n / d, neither below 0, rounded to the nearest integer, from the middle to the greater one.
@@ -115,7 +117,7 @@ func rounded(n, d int) int {
 
 // Average returns the mean of energies, each over as many ticks as it lasts.
 func Average(l, ticks []int) (int, api.Errno) {
-	if e := first(checkEnergies(l), checkTicks(ticks, len(l))); e != api.OK {
+	if e := check.First(checkEnergies(l), checkTicks(ticks, len(l))); e != api.OK {
 		return 0, e
 	}
 	all := total(ticks)
@@ -133,16 +135,16 @@ func Average(l, ticks []int) (int, api.Errno) {
 }
 
 func (h Heard) check() api.Errno {
-	return first(within(h.Tick, 0, Day-1), CheckEnergy(h.Energy))
+	return check.First(check.Within(h.Tick, 0, Day-1), CheckEnergy(h.Energy))
 }
 
 // Penalized returns the sum of what was heard on a day, each energy times the factor of its hour.
 func Penalized(l []Heard) (int, api.Errno) {
-	if e := first(atMost(l, MaxCells), firstIn(l, Heard.check)); e != api.OK {
+	if e := check.First(check.AtMost(l, MaxCells), check.Each(l, Heard.check)); e != api.OK {
 		return 0, e
 	}
 	hours := penalties()
-	energies := mapped(l, func(h Heard) int {
+	energies := list.Mapped(l, func(h Heard) int {
 		at := slices.IndexFunc(hours, func(p penalty) bool { return p.from <= h.Tick })
 		return hours[at].times(h.Energy)
 	})
@@ -168,7 +170,7 @@ func Maximum(l []int) (int, int, api.Errno) {
 
 // Above returns how many energies have at least a level.
 func Above(l []int, level int) (int, api.Errno) {
-	if e := first(checkEnergies(l), within(level, 0, api.MaxLevel)); e != api.OK {
+	if e := check.First(checkEnergies(l), check.Within(level, 0, api.MaxLevel)); e != api.OK {
 		return 0, e
 	}
 	least := threshold(level)

@@ -1,15 +1,18 @@
 package sound
 
-import "flyover/api"
+import (
+	"flyover/api"
+	"flyover/check"
+)
 
 // checkFactor returns ErrRange for a factor, or a weight, that is not from 0 to Whole, or OK.
 func checkFactor(n int) api.Errno {
-	return within(n, 0, Whole)
+	return check.Within(n, 0, Whole)
 }
 
-// checkInterval returns the first error of an interval whose ends a check examines, or OK.
-func checkInterval(x api.Interval, check func(int) api.Errno) api.Errno {
-	if e := first(check(x.Low), check(x.High)); e != api.OK {
+// checkInterval returns the first error of an interval whose ends f examines, or OK.
+func checkInterval(x api.Interval, f func(int) api.Errno) api.Errno {
+	if e := check.First(f(x.Low), f(x.High)); e != api.OK {
 		return e
 	}
 	if x.Low > x.High {
@@ -20,7 +23,7 @@ func checkInterval(x api.Interval, check func(int) api.Errno) api.Errno {
 
 // Weighted returns a spectrum times weights.
 func Weighted(s api.Spectrum, weights [api.MaxBands]int) (api.Spectrum, api.Errno) {
-	if e := first(firstIn(s[:], CheckEnergy), firstIn(weights[:], checkFactor)); e != api.OK {
+	if e := check.First(check.Each(s[:], CheckEnergy), check.Each(weights[:], checkFactor)); e != api.OK {
 		return api.Spectrum{}, e
 	}
 	var changed api.Spectrum
@@ -33,7 +36,7 @@ func Weighted(s api.Spectrum, weights [api.MaxBands]int) (api.Spectrum, api.Errn
 
 // Through returns what is left of the energies of an interval.
 func Through(e, factor api.Interval) (api.Interval, api.Errno) {
-	if no := first(checkInterval(e, CheckEnergy), checkInterval(factor, checkFactor)); no != api.OK {
+	if no := check.First(checkInterval(e, CheckEnergy), checkInterval(factor, checkFactor)); no != api.OK {
 		return api.Interval{}, no
 	}
 	return api.Interval{

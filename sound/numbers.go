@@ -4,6 +4,7 @@ import (
 	"math"
 
 	"flyover/api"
+	"flyover/check"
 )
 
 // perUnit is the integer of the sample 1.
@@ -29,7 +30,7 @@ func isLetter(r rune) bool {
 
 // Draw returns the permutation of n elements by a number.
 func Draw(number, n int) ([]int, api.Errno) {
-	if e := first(within(number, 0, api.MaxNumber), within(n, 0, api.MaxList)); e != api.OK {
+	if e := check.First(check.Within(number, 0, api.MaxNumber), check.Within(n, 0, api.MaxList)); e != api.OK {
 		return nil, e
 	}
 	l := make([]int, n)
@@ -47,7 +48,7 @@ func Draw(number, n int) ([]int, api.Errno) {
 
 // CheckRatio returns the first error of a ratio, or OK.
 func CheckRatio(x api.Ratio) api.Errno {
-	if e := first(within(x.Num, -api.MaxNumber, api.MaxNumber), within(x.Den, 1, api.MaxNumber)); e != api.OK {
+	if e := check.First(check.Within(x.Num, -api.MaxNumber, api.MaxNumber), check.Within(x.Den, 1, api.MaxNumber)); e != api.OK {
 		return e
 	}
 	if divisor(x.Num, x.Den) != 1 {
@@ -66,7 +67,7 @@ func divisor(a, b int) int {
 
 // CheckSample returns the first error of a sample, or OK.
 func CheckSample(x float32) api.Errno {
-	return first(finite(x), stepped(x, api.MaxValue))
+	return check.First(finite(x), stepped(x, api.MaxValue))
 }
 
 // finite returns ErrForm for NaN and infinities, or OK.
@@ -88,7 +89,7 @@ func stepped(x, limit float32) api.Errno {
 
 // CheckSamples returns the first error of samples, or OK.
 func CheckSamples(l []float32) api.Errno {
-	return first(atMost(l, api.MaxSamples), firstIn(l, CheckSample))
+	return check.First(check.AtMost(l, api.MaxSamples), check.Each(l, CheckSample))
 }
 
 // checkPanel returns the first error of a panel, or OK.
@@ -98,7 +99,7 @@ func checkPanel(p [4]complex64) api.Errno {
 		parts[2*i], parts[2*i+1] = real(z), imag(z)
 	}
 	inRange := func(x float32) api.Errno { return stepped(x, 4*api.MaxValue) }
-	return first(firstIn(parts[:], finite), firstIn(parts[:], inRange))
+	return check.First(check.Each(parts[:], finite), check.Each(parts[:], inRange))
 }
 
 // turned returns the sum of each element z at the index n times unit to the power of k n.
@@ -117,7 +118,7 @@ func turned(l [4]complex64, unit complex64, k int) complex64 {
 
 // Four returns the transform of four samples.
 func Four(l [4]float32) ([4]complex64, api.Errno) {
-	if e := firstIn(l[:], CheckSample); e != api.OK {
+	if e := check.Each(l[:], CheckSample); e != api.OK {
 		return [4]complex64{}, e
 	}
 	var samples, p [4]complex64
@@ -150,7 +151,7 @@ func Unfour(p [4]complex64) ([4]float32, api.Errno) {
 
 // Cross returns the cross-spectrum of two transforms.
 func Cross(p, q [4]complex64) ([4]api.Gauss, api.Errno) {
-	if e := first(checkPanel(p), checkPanel(q)); e != api.OK {
+	if e := check.First(checkPanel(p), checkPanel(q)); e != api.OK {
 		return [4]api.Gauss{}, e
 	}
 	var l [4]api.Gauss

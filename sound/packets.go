@@ -4,6 +4,7 @@ import (
 	"iter"
 
 	"flyover/api"
+	"flyover/check"
 )
 
 // sealSize is how many bytes a seal has.
@@ -47,7 +48,7 @@ func Seal(key api.Key, s []byte) (api.Key, api.Errno) {
 
 // check returns the first error of a packet, or OK.
 func (p Packet) check() api.Errno {
-	if e := first(checkStation(p.Station), within(p.Kind, 0, maxByte), within(p.Counter, 0, MaxCounter), within(p.Length, 0, MaxPiece)); e != api.OK {
+	if e := check.First(checkStation(p.Station), check.Within(p.Kind, 0, maxByte), check.Within(p.Counter, 0, MaxCounter), check.Within(p.Length, 0, MaxPiece)); e != api.OK {
 		return e
 	}
 	cut := p
@@ -59,7 +60,7 @@ func (p Packet) check() api.Errno {
 }
 
 func checkStation(station int) api.Errno {
-	return within(station, 0, maxByte)
+	return check.Within(station, 0, maxByte)
 }
 
 // Encode returns the frame of a packet by a key.
@@ -141,7 +142,7 @@ func following(counter int) int {
 
 // Lost returns the counters of a station that are lost.
 func Lost(l []Packet, station int) ([]int, api.Errno) {
-	if e := first(atMost(l, MaxPackets), firstIn(l, Packet.check), checkStation(station)); e != api.OK {
+	if e := check.First(check.AtMost(l, MaxPackets), check.Each(l, Packet.check), checkStation(station)); e != api.OK {
 		return nil, e
 	}
 	var lost []int
@@ -161,7 +162,7 @@ search:
 		}
 		last = placed{p, i}
 	}
-	if e := atMost(lost, api.MaxList); e != api.OK {
+	if e := check.AtMost(lost, api.MaxList); e != api.OK {
 		return nil, e
 	}
 	return lost, api.OK

@@ -5,6 +5,8 @@ import (
 	"slices"
 
 	"flyover/api"
+	"flyover/check"
+	"flyover/list"
 )
 
 // magic is what each stream of samples begins with.
@@ -43,7 +45,7 @@ func Pack(l []float32) ([]byte, api.Errno) {
 		return nil, e
 	}
 	s := append([]byte(magic), byte(len(l)>>8), byte(len(l)))
-	for _, b := range mapped(l, bytesOf) {
+	for _, b := range list.Mapped(l, bytesOf) {
 		s = append(s, b[:]...)
 	}
 	end := seal(api.Key{}, s)
@@ -84,8 +86,8 @@ func Unpack(s []byte) ([]float32, api.Errno) {
 		return nil, e
 	}
 	samples := slices.Chunk(s[head:len(s)-sealSize], perSample)
-	l := mapped(slices.Collect(samples), numberOf)
-	if e := first(CheckSamples(l), firstIn(l, notMinusZero)); e != api.OK {
+	l := list.Mapped(slices.Collect(samples), numberOf)
+	if e := check.First(CheckSamples(l), check.Each(l, notMinusZero)); e != api.OK {
 		return nil, e
 	}
 	return l, api.OK

@@ -5,6 +5,8 @@ import (
 	"strings"
 
 	"flyover/api"
+	"flyover/list"
+	"flyover/text"
 )
 
 // The first words of the lines of a string of energies.
@@ -18,21 +20,6 @@ func forms() map[string]int {
 	return map[string]int{countWord: 9, energyWord: 15}
 }
 
-// words are those of a line that are not taken yet.
-type words struct {
-	left []string
-}
-
-// next takes a word: the empty one where none is left.
-func (w *words) next() string {
-	if len(w.left) == 0 {
-		return ""
-	}
-	word := w.left[0]
-	w.left = w.left[1:]
-	return word
-}
-
 // lineOf returns the line with a word and an integer.
 func lineOf(word string, n int) string {
 	return word + " " + strconv.Itoa(n) + "\n"
@@ -43,7 +30,7 @@ func Print(l []int) (string, api.Errno) {
 	if e := checkEnergies(l); e != api.OK {
 		return "", e
 	}
-	lines := mapped(l, func(n int) string { return lineOf(energyWord, n) })
+	lines := list.Mapped(l, func(n int) string { return lineOf(energyWord, n) })
 	s := lineOf(countWord, len(l)) + strings.Join(lines, "")
 	if len(s) > api.MaxText {
 		return "", api.ErrLong
@@ -51,42 +38,17 @@ func Print(l []int) (string, api.Errno) {
 	return s, api.OK
 }
 
-// integer returns the integer that a word is, and whether it is one with at most so many digits.
-func integer(word string, digits int) (int, bool) {
-	if word == "" || len(word) > digits || word[0] == '0' && word != "0" {
-		return 0, false
-	}
-	n := 0
-	for _, r := range word {
-		if r < '0' || r > '9' {
-			return 0, false
-		}
-		n = 10*n + int(r-'0')
-	}
-	return n, true
-}
-
 // readLine returns the integer of a line, and whether the line is a word and an integer of its form.
 func readLine(line, word string) (int, bool) {
-	text, ended := strings.CutSuffix(line, "\n")
-	w := words{strings.Split(text, " ")}
-	if !ended || len(w.left) != 2 {
+	w, ended := text.WordsOf(line)
+	if !ended || w.Left() != 2 {
 		return 0, false
 	}
-	take := w.next
+	take := w.Next
 	if take() != word {
 		return 0, false
 	}
-	return integer(take(), forms()[word])
-}
-
-// linesOf returns the lines of a string, with their line feeds. The empty string has one, which has none.
-func linesOf(s string) []string {
-	lines := strings.SplitAfter(s, "\n")
-	if last := len(lines) - 1; last > 0 && lines[last] == "" {
-		return lines[:last]
-	}
-	return lines
+	return text.Integer(take(), forms()[word])
 }
 
 // Parse returns the energies of a string, and the index of the first line that is wrong.
@@ -94,7 +56,10 @@ func Parse(s string) ([]int, int, api.Errno) {
 	if len(s) > api.MaxText {
 		return nil, 0, api.ErrLong
 	}
-	lines := linesOf(s)
+	if s == "" {
+		return nil, 0, api.ErrSyntax
+	}
+	lines := text.Lines(s)
 	count := 0
 	var l []int
 	for i, line := range lines {

@@ -1,0 +1,40 @@
+// Package check has the checks of arguments that the packages of the layers share.
+package check
+
+import "flyover/api"
+
+// First returns the first of errors that is one, or OK.
+func First(errors ...api.Errno) api.Errno {
+	for _, e := range errors {
+		if e != api.OK {
+			return e
+		}
+	}
+	return api.OK
+}
+
+// Each returns the error of the first element for which f finds one, or OK.
+func Each[T any](l []T, f func(T) api.Errno) api.Errno {
+	for _, x := range l {
+		if e := f(x); e != api.OK {
+			return e
+		}
+	}
+	return api.OK
+}
+
+// AtMost returns ErrMany for a list with more elements than a limit, or OK.
+func AtMost[T any](l []T, limit int) api.Errno {
+	if len(l) > limit {
+		return api.ErrMany
+	}
+	return api.OK
+}
+
+// Within returns ErrRange for a number that is not from low to high, or OK.
+func Within(n, low, high int) api.Errno {
+	if n < low || n > high {
+		return api.ErrRange
+	}
+	return api.OK
+}

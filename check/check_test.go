@@ -1,0 +1,30 @@
+package check_test
+
+import (
+	"math"
+	"testing"
+
+	"flyover/api"
+	"flyover/check"
+)
+
+// The first error decides, and limits are included.
+func TestChecks(t *testing.T) {
+	even := func(n int) api.Errno {
+		if n%2 != 0 {
+			return api.Errno(n)
+		}
+		return api.OK
+	}
+	for i, x := range []struct{ got, want api.Errno }{
+		{check.First(), api.OK}, {check.First(api.OK, api.OK), api.OK}, {check.First(api.OK, api.ErrZero, api.ErrForm), api.ErrZero},
+		{check.Each(nil, even), api.OK}, {check.Each([]int{2, 4}, even), api.OK}, {check.Each([]int{2, 5, 3}, even), api.Errno(5)},
+		{check.AtMost([]int{1, 2}, 2), api.OK}, {check.AtMost([]int{1, 2, 3}, 2), api.ErrMany},
+		{check.Within(1, 1, 3), api.OK}, {check.Within(3, 1, 3), api.OK}, {check.Within(0, 1, 3), api.ErrRange},
+		{check.Within(4, 1, 3), api.ErrRange}, {check.Within(math.MinInt, 1, 3), api.ErrRange},
+	} {
+		if x.got != x.want {
+			t.Errorf("check %d: got %d, want %d", i, x.got, x.want)
+		}
+	}
+}
