@@ -31,10 +31,29 @@ func AtMost[T any](l []T, limit int) api.Errno {
 	return api.OK
 }
 
+// Count returns the error of a list that must have from 1 to limit elements, or OK.
+func Count[T any](l []T, limit int) api.Errno {
+	if len(l) == 0 {
+		return api.ErrEmpty
+	}
+	return AtMost(l, limit)
+}
+
 // Within returns ErrRange for a number that is not from low to high, or OK.
 func Within(n, low, high int) api.Errno {
 	if n < low || n > high {
 		return api.ErrRange
+	}
+	return api.OK
+}
+
+// Interval returns the first error of an interval whose ends f examines, or OK.
+func Interval(x api.Interval, f func(int) api.Errno) api.Errno {
+	if e := First(f(x.Low), f(x.High)); e != api.OK {
+		return e
+	}
+	if x.Low > x.High {
+		return api.ErrOrder
 	}
 	return api.OK
 }

@@ -20,8 +20,12 @@ func TestChecks(t *testing.T) {
 		{check.First(), api.OK}, {check.First(api.OK, api.OK), api.OK}, {check.First(api.OK, api.ErrZero, api.ErrForm), api.ErrZero},
 		{check.Each(nil, even), api.OK}, {check.Each([]int{2, 4}, even), api.OK}, {check.Each([]int{2, 5, 3}, even), api.Errno(5)},
 		{check.AtMost([]int{1, 2}, 2), api.OK}, {check.AtMost([]int{1, 2, 3}, 2), api.ErrMany},
+		{check.Count([]int{}, 2), api.ErrEmpty}, {check.Count([]int{1}, 2), api.OK}, {check.Count([]int{1, 2}, 2), api.OK}, {check.Count([]int{1, 2, 3}, 2), api.ErrMany},
 		{check.Within(1, 1, 3), api.OK}, {check.Within(3, 1, 3), api.OK}, {check.Within(0, 1, 3), api.ErrRange},
 		{check.Within(4, 1, 3), api.ErrRange}, {check.Within(math.MinInt, 1, 3), api.ErrRange},
+		{check.Interval(api.Interval{Low: 2, High: 4}, even), api.OK}, {check.Interval(api.Interval{Low: 2, High: 2}, even), api.OK},
+		{check.Interval(api.Interval{Low: 5, High: 3}, even), api.Errno(5)}, {check.Interval(api.Interval{Low: 4, High: 3}, even), api.Errno(3)},
+		{check.Interval(api.Interval{Low: 4, High: 2}, even), api.ErrOrder},
 	} {
 		if x.got != x.want {
 			t.Errorf("check %d: got %d, want %d", i, x.got, x.want)

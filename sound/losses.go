@@ -10,17 +10,6 @@ func checkFactor(n int) api.Errno {
 	return check.Within(n, 0, Whole)
 }
 
-// checkInterval returns the first error of an interval whose ends f examines, or OK.
-func checkInterval(x api.Interval, f func(int) api.Errno) api.Errno {
-	if e := check.First(f(x.Low), f(x.High)); e != api.OK {
-		return e
-	}
-	if x.Low > x.High {
-		return api.ErrOrder
-	}
-	return api.OK
-}
-
 // Weighted returns a spectrum times weights.
 func Weighted(s api.Spectrum, weights [api.MaxBands]int) (api.Spectrum, api.Errno) {
 	if e := check.First(check.Each(s[:], CheckEnergy), check.Each(weights[:], checkFactor)); e != api.OK {
@@ -36,7 +25,7 @@ func Weighted(s api.Spectrum, weights [api.MaxBands]int) (api.Spectrum, api.Errn
 
 // Through returns what is left of the energies of an interval.
 func Through(e, factor api.Interval) (api.Interval, api.Errno) {
-	if no := check.First(checkInterval(e, CheckEnergy), checkInterval(factor, checkFactor)); no != api.OK {
+	if no := check.First(check.Interval(e, CheckEnergy), check.Interval(factor, checkFactor)); no != api.OK {
 		return api.Interval{}, no
 	}
 	return api.Interval{

@@ -5,6 +5,7 @@ import (
 
 	"flyover/api"
 	"flyover/check"
+	"flyover/number"
 )
 
 // perUnit is the integer of the sample 1.
@@ -51,18 +52,10 @@ func CheckRatio(x api.Ratio) api.Errno {
 	if e := check.First(check.Within(x.Num, -api.MaxNumber, api.MaxNumber), check.Within(x.Den, 1, api.MaxNumber)); e != api.OK {
 		return e
 	}
-	if divisor(x.Num, x.Den) != 1 {
+	if number.Divisor(x.Num, x.Den) != 1 {
 		return api.ErrForm
 	}
 	return api.OK
-}
-
-// divisor returns the greatest common divisor of an integer and one above 0.
-func divisor(a, b int) int {
-	for a != 0 {
-		a, b = b%a, a
-	}
-	return max(b, -b)
 }
 
 // CheckSample returns the first error of a sample, or OK.

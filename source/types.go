@@ -18,14 +18,6 @@ func checkName(s string) api.Errno {
 	return api.OK
 }
 
-// checkCount returns the error of a list that must have from 1 to limit elements, or OK.
-func checkCount[T any](l []T, limit int) api.Errno {
-	if len(l) == 0 {
-		return api.ErrEmpty
-	}
-	return check.AtMost(l, limit)
-}
-
 // checkFactor returns ErrRange for a share, or a factor Side, that is not from 0 to Whole, or OK.
 func checkFactor(n int) api.Errno {
 	return check.Within(n, 0, Whole)
@@ -51,7 +43,7 @@ func CheckType(t Type) api.Errno {
 		check.Each(t.Direct[:], checkDirect),
 		checkFactor(t.Side),
 		checkSquares(t.Squares),
-		checkCount(t.Settings, MaxSettings),
+		check.Count(t.Settings, MaxSettings),
 	); e != api.OK {
 		return e
 	}
@@ -68,7 +60,7 @@ func CheckType(t Type) api.Errno {
 
 // checkShares returns the first error of the shares of a type, or OK.
 func checkShares(l []int) api.Errno {
-	if e := check.First(checkCount(l, api.MaxBands), check.Each(l, checkFactor)); e != api.OK {
+	if e := check.First(check.Count(l, api.MaxBands), check.Each(l, checkFactor)); e != api.OK {
 		return e
 	}
 	left := Whole
@@ -83,7 +75,7 @@ func checkShares(l []int) api.Errno {
 
 // checkSquares returns the first error of the squares of a type, or OK.
 func checkSquares(l []int) api.Errno {
-	if e := check.First(checkCount(l, MaxReaches), check.Each(l, checkSquare)); e != api.OK {
+	if e := check.First(check.Count(l, MaxReaches), check.Each(l, checkSquare)); e != api.OK {
 		return e
 	}
 	if l[0] != 0 {

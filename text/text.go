@@ -44,6 +44,16 @@ func Integer(word string, digits int) (int, bool) {
 	return n, true
 }
 
+// Signed returns the integer that a word is, and whether it is one, as of Integer, but with or without - in front; -0 is none.
+func Signed(word string, digits int) (int, bool) {
+	size, negative := strings.CutPrefix(word, "-")
+	n, ok := Integer(size, digits)
+	if !negative {
+		return n, ok
+	}
+	return -n, ok && n != 0
+}
+
 // Lines returns the lines of a string, each with its line feed if it has one; the empty string has none.
 func Lines(s string) []string {
 	lines := strings.SplitAfter(s, "\n")

@@ -60,3 +60,20 @@ func TestInteger(t *testing.T) {
 		}
 	}
 }
+
+// Negative integers have one - in front, but 0 has none.
+func TestSigned(t *testing.T) {
+	for _, x := range []struct {
+		word string
+		n    int
+		ok   bool
+	}{
+		{"0", 0, true}, {"7", 7, true}, {"-7", -7, true}, {"9999", 9999, true}, {"-9999", -9999, true}, {"-10", -10, true},
+		{"", 0, false}, {"-", 0, false}, {"-0", 0, false}, {"--1", 0, false}, {"+1", 0, false}, {"-+1", 0, false}, {"1-", 0, false},
+		{"07", 0, false}, {"-07", 0, false}, {"10000", 0, false}, {"-10000", 0, false}, {"- 1", 0, false}, {"\u22121", 0, false},
+	} {
+		if n, ok := text.Signed(x.word, 4); n != x.n || ok != x.ok {
+			t.Errorf("Signed of %q: got %v, %v", x.word, n, ok)
+		}
+	}
+}

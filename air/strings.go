@@ -1,0 +1,81 @@
+package air
+
+import (
+	"strconv"
+	"strings"
+
+	"flyover/api"
+	"flyover/list"
+	"flyover/text"
+)
+
+// firstWords has the first word of each kind of line.
+var firstWords = [1]string{"layer"}
+
+// digits is how many an integer of a line has at most.
+const digits = 9
+
+// fixed is how many integers of a line come before those of the bands.
+const fixed = 4
+
+// line returns the line of a layer.
+func (x Layer) line() string {
+	l := []int{x.Thickness, x.Speed, x.Wind.X, x.Wind.Y}
+	for _, pass := range x.Pass {
+		l = append(l, pass.Low, pass.High)
+	}
+	return firstWords[0] + " " + strings.Join(list.Mapped(l, strconv.Itoa), " ") + "\n"
+}
+
+// Print returns the string of an air.
+func Print(a []Layer) (string, api.Errno) {
+	if e := CheckAir(a); e != api.OK {
+		return "", e
+	}
+	return strings.Join(list.Mapped(a, Layer.line), ""), api.OK
+}
+
+// readLine returns the layer of a line, and whether the line has the form of one.
+func readLine(line string) (Layer, bool) {
+	w, ended := text.WordsOf(line)
+	take := w.Next
+	if !ended || take() != firstWords[0] {
+		return Layer{}, false
+	}
+	l := make([]int, w.Left())
+	for i := range l {
+		n, ok := text.Signed(take(), digits)
+		if !ok {
+			return Layer{}, false
+		}
+		l[i] = n
+	}
+	if len(l) < fixed+2 || len(l)%2 != 0 {
+		return Layer{}, false
+	}
+	x := Layer{Thickness: l[0], Speed: l[1], Wind: api.Point{X: l[2], Y: l[3]}}
+	for i := fixed; i < len(l); i += 2 {
+		x.Pass = append(x.Pass, api.Interval{Low: l[i], High: l[i+1]})
+	}
+	return x, true
+}
+
+// Parse returns the air of a string, and the index of the first line that is wrong.
+func Parse(s string) ([]Layer, int, api.Errno) {
+	if len(s) > api.MaxText {
+		return nil, 0, api.ErrLong
+	}
+	lines := text.Lines(s)
+	var a []Layer
+	for i, line := range lines {
+		x, ok := readLine(line)
+		if !ok {
+			return nil, i, api.ErrSyntax
+		}
+		a = append(a, x)
+	}
+	if e := CheckAir(a); e != api.OK {
+		return nil, len(lines), e
+	}
+	return a, 0, api.OK
+}
