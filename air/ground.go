@@ -58,9 +58,7 @@ func Factor(impedance complex128) (api.Gauss, int, api.Errno) {
 
 // share returns that of an impedance.
 func share(impedance complex128) api.Ratio {
-	num, den := norm(impedance-1), norm(impedance+1)
-	d := number.Divisor(num, den)
-	return api.Ratio{Num: num / d, Den: den / d}
+	return number.Ratio(norm(impedance-1), norm(impedance+1))
 }
 
 // Share returns the share of the energy that a ground reflects.

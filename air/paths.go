@@ -2,11 +2,11 @@ package air
 
 import (
 	"slices"
-	"sort"
 
 	"flyover/api"
 	"flyover/check"
 	"flyover/list"
+	"flyover/number"
 	"flyover/sound"
 )
 
@@ -56,23 +56,13 @@ func CheckPath(p Path) api.Errno {
 	return api.OK
 }
 
-// root returns the interval of the square root of n / d.
-func root(n, d int) api.Interval {
-	q := n / d
-	x := sort.Search(q+1, func(i int) bool { return i*i > q }) - 1
-	if x*x*d == n {
-		return api.Interval{Low: x, High: x}
-	}
-	return api.Interval{Low: x, High: x + 1}
-}
-
 // Length returns the interval of the length of a path.
 func Length(p Path) (api.Interval, api.Errno) {
 	if e := CheckPath(p); e != api.OK {
 		return api.Interval{}, e
 	}
 	h := p.heights()
-	return root(p.square(h[1]-h[0]), 1), api.OK
+	return number.Root(p.square(h[1]-h[0]), 1), api.OK
 }
 
 // spread returns the steps in each layer of a length with this square: in each the part of the whole that f says.
@@ -81,7 +71,7 @@ func spread(a []Layer, square, whole int, f func(placed) int) []api.Interval {
 	return list.Mapped(slices.Collect(layers(a)), func(x placed) api.Interval {
 		part := f(x)
 		// Squares stay exact, and fit: they are below 2^59.
-		return root(square*part*part, unit*unit)
+		return number.Root(square*part*part, unit*unit)
 	})
 }
 
@@ -162,10 +152,10 @@ func emitted(heard, pass api.Interval) (api.Interval, bool) {
 		if pass.High == 0 {
 			return api.Interval{}, false
 		}
-		x.Low = up(heard.Low*Whole, pass.High)
+		x.Low = number.Up(heard.Low*Whole, pass.High)
 	}
 	if pass.Low > 0 {
-		x.High = min(x.High, down(heard.High*Whole, pass.Low))
+		x.High = min(x.High, number.Down(heard.High*Whole, pass.Low))
 	}
 	// Between the ends there may be no integer, also where the limit cuts none.
 	return x, x.Low <= x.High

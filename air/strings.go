@@ -42,15 +42,8 @@ func readLine(line string) (Layer, bool) {
 	if !ended || take() != firstWords[0] {
 		return Layer{}, false
 	}
-	l := make([]int, w.Left())
-	for i := range l {
-		n, ok := text.Signed(take(), digits)
-		if !ok {
-			return Layer{}, false
-		}
-		l[i] = n
-	}
-	if len(l) < fixed+2 || len(l)%2 != 0 {
+	l, ok := w.Numbers(text.Signed, digits)
+	if !ok || len(l) < fixed+2 || len(l)%2 != 0 {
 		return Layer{}, false
 	}
 	x := Layer{Thickness: l[0], Speed: l[1], Wind: api.Point{X: l[2], Y: l[3]}}
@@ -62,20 +55,12 @@ func readLine(line string) (Layer, bool) {
 
 // Parse returns the air of a string, and the index of the first line that is wrong.
 func Parse(s string) ([]Layer, int, api.Errno) {
-	if len(s) > api.MaxText {
-		return nil, 0, api.ErrLong
-	}
-	lines := text.Lines(s)
-	var a []Layer
-	for i, line := range lines {
-		x, ok := readLine(line)
-		if !ok {
-			return nil, i, api.ErrSyntax
-		}
-		a = append(a, x)
+	a, at, e := text.Read(s, readLine)
+	if e != api.OK {
+		return nil, at, e
 	}
 	if e := CheckAir(a); e != api.OK {
-		return nil, len(lines), e
+		return nil, at, e
 	}
 	return a, 0, api.OK
 }

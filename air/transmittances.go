@@ -1,6 +1,9 @@
 package air
 
-import "flyover/api"
+import (
+	"flyover/api"
+	"flyover/number"
+)
 
 // rounding finds one end of intervals: which end it is, with how many steps it is reached, and how its quotients are rounded.
 type rounding struct {
@@ -12,17 +15,11 @@ type rounding struct {
 func lowOf(x api.Interval) int  { return x.Low }
 func highOf(x api.Interval) int { return x.High }
 
-// down returns n / d, n from 0 on and d above 0, rounded down.
-func down(n, d int) int { return n / d }
-
-// up returns n / d, n from 0 on and d above 0, rounded up.
-func up(n, d int) int { return (n + d - 1) / d }
-
 // lower finds the Low: the more steps, the less is left.
-func lower() rounding { return rounding{end: lowOf, steps: highOf, divided: down} }
+func lower() rounding { return rounding{end: lowOf, steps: highOf, divided: number.Down} }
 
 // upper finds the High.
-func upper() rounding { return rounding{end: highOf, steps: lowOf, divided: up} }
+func upper() rounding { return rounding{end: highOf, steps: lowOf, divided: number.Up} }
 
 // both returns the interval whose ends f finds.
 func both(f func(rounding) int) api.Interval {

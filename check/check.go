@@ -13,6 +13,14 @@ func First(errors ...api.Errno) api.Errno {
 	return api.OK
 }
 
+// That returns an error unless what it is about holds; then OK.
+func That(holds bool, e api.Errno) api.Errno {
+	if !holds {
+		return e
+	}
+	return api.OK
+}
+
 // Each returns the error of the first element for which f finds one, or OK.
 func Each[T any](l []T, f func(T) api.Errno) api.Errno {
 	for _, x := range l {
@@ -21,6 +29,21 @@ func Each[T any](l []T, f func(T) api.Errno) api.Errno {
 		}
 	}
 	return api.OK
+}
+
+// Distinct returns the error of the first element for which f finds one, or ErrTwice if an element before it has its name; or OK.
+func Distinct[T any](l []T, f func(T) api.Errno, name func(T) string) api.Errno {
+	seen := make(map[string]bool, len(l))
+	return Each(l, func(x T) api.Errno {
+		if e := f(x); e != api.OK {
+			return e
+		}
+		if seen[name(x)] {
+			return api.ErrTwice
+		}
+		seen[name(x)] = true
+		return api.OK
+	})
 }
 
 // AtMost returns ErrMany for a list with more elements than a limit, or OK.

@@ -2,6 +2,7 @@ package check_test
 
 import (
 	"math"
+	"strconv"
 	"testing"
 
 	"flyover/api"
@@ -19,6 +20,10 @@ func TestChecks(t *testing.T) {
 	for i, x := range []struct{ got, want api.Errno }{
 		{check.First(), api.OK}, {check.First(api.OK, api.OK), api.OK}, {check.First(api.OK, api.ErrZero, api.ErrForm), api.ErrZero},
 		{check.Each(nil, even), api.OK}, {check.Each([]int{2, 4}, even), api.OK}, {check.Each([]int{2, 5, 3}, even), api.Errno(5)},
+		{check.That(true, api.ErrForm), api.OK}, {check.That(false, api.ErrForm), api.ErrForm},
+		{check.Distinct(nil, even, strconv.Itoa), api.OK}, {check.Distinct([]int{2, 4}, even, strconv.Itoa), api.OK},
+		{check.Distinct([]int{2, 4, 2, 5}, even, strconv.Itoa), api.ErrTwice}, {check.Distinct([]int{2, 4, 5, 2}, even, strconv.Itoa), api.Errno(5)},
+		{check.Distinct([]int{5, 5}, even, strconv.Itoa), api.Errno(5)},
 		{check.AtMost([]int{1, 2}, 2), api.OK}, {check.AtMost([]int{1, 2, 3}, 2), api.ErrMany},
 		{check.Count([]int{}, 2), api.ErrEmpty}, {check.Count([]int{1}, 2), api.OK}, {check.Count([]int{1, 2}, 2), api.OK}, {check.Count([]int{1, 2, 3}, 2), api.ErrMany},
 		{check.Within(1, 1, 3), api.OK}, {check.Within(3, 1, 3), api.OK}, {check.Within(0, 1, 3), api.ErrRange},

@@ -79,15 +79,8 @@ func readLine(t *Type, line string, at int) bool {
 			return false
 		}
 	}
-	l := make([]int, w.Left())
-	for i := range l {
-		n, ok := text.Integer(take(), digits)
-		if !ok {
-			return false
-		}
-		l[i] = n
-	}
-	if len(l) < f.least || len(l) > f.most {
+	l, ok := w.Numbers(text.Integer, digits)
+	if !ok || len(l) < f.least || len(l) > f.most {
 		return false
 	}
 	f.set(t, l)

@@ -1,7 +1,11 @@
 // Package text has what the packages of the layers share to read the lines of strings.
 package text
 
-import "strings"
+import (
+	"strings"
+
+	"flyover/api"
+)
 
 // Words are those of a line that are not taken yet.
 type Words struct {
@@ -54,6 +58,19 @@ func Signed(word string, digits int) (int, bool) {
 	return -n, ok && n != 0
 }
 
+// Numbers takes all words that are left, and returns the integers that read finds in them (as Integer or Signed do), and whether each one is one.
+func (w *Words) Numbers(read func(word string, digits int) (int, bool), digits int) ([]int, bool) {
+	l := make([]int, w.Left())
+	for i := range l {
+		n, ok := read(w.Next(), digits)
+		if !ok {
+			return nil, false
+		}
+		l[i] = n
+	}
+	return l, true
+}
+
 // Lines returns the lines of a string, each with its line feed if it has one; the empty string has none.
 func Lines(s string) []string {
 	lines := strings.SplitAfter(s, "\n")
@@ -61,4 +78,20 @@ func Lines(s string) []string {
 		return lines[:last]
 	}
 	return lines
+}
+
+// Read returns what read finds in each line of a string, and the number of lines. If the string is too long, or has a line that read does not understand, it returns the error and the index that belongs to it.
+func Read[T any](s string, read func(line string) (T, bool)) ([]T, int, api.Errno) {
+	if len(s) > api.MaxText {
+		return nil, 0, api.ErrLong
+	}
+	var l []T
+	for i, line := range Lines(s) {
+		x, ok := read(line)
+		if !ok {
+			return nil, i, api.ErrSyntax
+		}
+		l = append(l, x)
+	}
+	return l, len(l), api.OK
 }

@@ -5,6 +5,7 @@ import (
 	"strings"
 	"testing"
 
+	"flyover/api"
 	"flyover/text"
 )
 
@@ -74,6 +75,46 @@ func TestSigned(t *testing.T) {
 	} {
 		if n, ok := text.Signed(x.word, 4); n != x.n || ok != x.ok {
 			t.Errorf("Signed of %q: got %v, %v", x.word, n, ok)
+		}
+	}
+}
+
+// All words that are left are integers, or the numbers are none.
+func TestNumbers(t *testing.T) {
+	for _, x := range []struct {
+		line string
+		read func(word string, digits int) (int, bool)
+		l    []int
+		ok   bool
+	}{
+		{"a 1 22 3\n", text.Integer, []int{1, 22, 3}, true}, {"a\n", text.Integer, nil, true}, {"a \n", text.Integer, nil, false},
+		{"a 1 x\n", text.Integer, nil, false}, {"a -1\n", text.Integer, nil, false}, {"a -1 2\n", text.Signed, []int{-1, 2}, true},
+		{"a 100\n", text.Integer, nil, false}, {"a -100 1\n", text.Signed, nil, false},
+	} {
+		w, _ := text.WordsOf(x.line)
+		w.Next()
+		if l, ok := w.Numbers(x.read, 2); ok != x.ok || !slices.Equal(l, x.l) {
+			t.Errorf("numbers of %q: got %v, %v", x.line, l, ok)
+		}
+	}
+}
+
+// All lines are read, up to the first one that is wrong.
+func TestRead(t *testing.T) {
+	letter := func(line string) (string, bool) { return line[:1], len(line) == 2 && line[1] == '\n' }
+	full := strings.Repeat("a\n", api.MaxText/2)
+	for _, x := range []struct {
+		s    string
+		want string
+		n    int
+		e    api.Errno
+	}{
+		{"", "", 0, api.OK}, {"a\nb\n", "ab", 2, api.OK}, {"a\nb", "", 1, api.ErrSyntax}, {"a\n\nb\n", "", 1, api.ErrSyntax}, {"ab\nc\n", "", 0, api.ErrSyntax},
+		{full, strings.Repeat("a", api.MaxText/2), api.MaxText / 2, api.OK}, {full + "x", "", 0, api.ErrLong},
+	} {
+		l, n, e := text.Read(x.s, letter)
+		if got := strings.Join(l, ""); got != x.want || n != x.n || e != x.e {
+			t.Errorf("Read of %.20q: got %.20q, %d, %d", x.s, got, n, e)
 		}
 	}
 }
