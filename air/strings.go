@@ -1,10 +1,10 @@
 package air
 
 import (
-	"strconv"
 	"strings"
 
 	"flyover/api"
+	"flyover/check"
 	"flyover/list"
 	"flyover/text"
 )
@@ -24,7 +24,7 @@ func (x Layer) line() string {
 	for _, pass := range x.Pass {
 		l = append(l, pass.Low, pass.High)
 	}
-	return firstWords[0] + " " + strings.Join(list.Mapped(l, strconv.Itoa), " ") + "\n"
+	return text.Line(firstWords[0], l...)
 }
 
 // Print returns the string of an air.
@@ -56,11 +56,8 @@ func readLine(line string) (Layer, bool) {
 // Parse returns the air of a string, and the index of the first line that is wrong.
 func Parse(s string) ([]Layer, int, api.Errno) {
 	a, at, e := text.Read(s, readLine)
-	if e != api.OK {
-		return nil, at, e
-	}
-	if e := CheckAir(a); e != api.OK {
-		return nil, at, e
+	if no := check.First(e, CheckAir(a)); no != api.OK {
+		return nil, at, no
 	}
 	return a, 0, api.OK
 }

@@ -33,17 +33,18 @@ func Each[T any](l []T, f func(T) api.Errno) api.Errno {
 
 // Distinct returns the error of the first element for which f finds one, or ErrTwice if an element before it has its name; or OK.
 func Distinct[T any](l []T, f func(T) api.Errno, name func(T) string) api.Errno {
-	seen := make(map[string]bool, len(l))
-	return Each(l, func(x T) api.Errno {
-		if e := f(x); e != api.OK {
-			return e
-		}
-		if seen[name(x)] {
-			return api.ErrTwice
-		}
-		seen[name(x)] = true
-		return api.OK
-	})
+	once := Once()
+	return Each(l, func(x T) api.Errno { return First(f(x), once(name(x))) })
+}
+
+// Once returns a function that returns ErrTwice for a name that it was given before, or OK.
+func Once() func(name string) api.Errno {
+	seen := map[string]bool{}
+	return func(name string) api.Errno {
+		twice := seen[name]
+		seen[name] = true
+		return That(!twice, api.ErrTwice)
+	}
 }
 
 // AtMost returns ErrMany for a list with more elements than a limit, or OK.

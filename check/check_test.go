@@ -37,3 +37,19 @@ func TestChecks(t *testing.T) {
 		}
 	}
 }
+
+// A name is there once, whatever comes between.
+func TestOnce(t *testing.T) {
+	once, other := check.Once(), check.Once()
+	for i, x := range []struct {
+		name string
+		want api.Errno
+	}{{"a", api.OK}, {"b", api.OK}, {"A", api.OK}, {"a", api.ErrTwice}, {"", api.OK}, {"a", api.ErrTwice}, {"", api.ErrTwice}, {"c", api.OK}} {
+		if got := once(x.name); got != x.want {
+			t.Errorf("name %d: got %d, want %d", i, got, x.want)
+		}
+	}
+	if got := other("a"); got != api.OK {
+		t.Errorf("a name that was given to another function: got %d", got)
+	}
+}

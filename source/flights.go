@@ -43,19 +43,10 @@ func checkListed(known map[string]Type, l []Flight) api.Errno {
 	if e := check.AtMost(l, MaxFlights); e != api.OK {
 		return e
 	}
-	seen := make(map[string]bool, len(l))
+	once := check.Once()
 	return check.Each(l, func(f Flight) api.Errno {
-		if e := checkName(f.Name); e != api.OK {
-			return e
-		}
-		if seen[f.Name] {
-			return api.ErrTwice
-		}
-		seen[f.Name] = true
-		if _, ok := known[f.Type]; !ok {
-			return api.ErrUnknown
-		}
-		return CheckTrack(f.Track)
+		_, ok := known[f.Type]
+		return check.First(checkName(f.Name), once(f.Name), check.That(ok, api.ErrUnknown), CheckTrack(f.Track))
 	})
 }
 

@@ -2,11 +2,9 @@ package source
 
 import (
 	"slices"
-	"strconv"
 	"strings"
 
 	"flyover/api"
-	"flyover/list"
 	"flyover/text"
 )
 
@@ -55,12 +53,11 @@ func Print(t Type) (string, api.Errno) {
 	}
 	var s strings.Builder
 	for i, row := range rows {
-		words := []string{firstWords[kind(i)]}
+		words := firstWords[kind(i)]
 		if forms()[kind(i)].named {
-			words = append(words, t.Name)
+			words += " " + t.Name
 		}
-		words = append(words, list.Mapped(row, strconv.Itoa)...)
-		s.WriteString(strings.Join(words, " ") + "\n")
+		s.WriteString(text.Line(words, row...))
 	}
 	return s.String(), api.OK
 }

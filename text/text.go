@@ -1,11 +1,19 @@
-// Package text has what the packages of the layers share to read the lines of strings.
+// Package text has what the packages of the layers share to read and to write the lines of strings.
 package text
 
 import (
+	"slices"
+	"strconv"
 	"strings"
 
 	"flyover/api"
+	"flyover/list"
 )
+
+// Line returns the line with words and integers.
+func Line(words string, l ...int) string {
+	return strings.Join(slices.Concat([]string{words}, list.Mapped(l, strconv.Itoa)), " ") + "\n"
+}
 
 // Words are those of a line that are not taken yet.
 type Words struct {
@@ -71,6 +79,16 @@ func (w *Words) Numbers(read func(word string, digits int) (int, bool), digits i
 	return l, true
 }
 
+// Number returns the integer of a line, and whether the line is a word and an integer with at most so many digits.
+func Number(line, word string, digits int) (int, bool) {
+	w, ended := WordsOf(line)
+	take := w.Next
+	if !ended || w.Left() != 2 || take() != word {
+		return 0, false
+	}
+	return Integer(take(), digits)
+}
+
 // Lines returns the lines of a string, each with its line feed if it has one; the empty string has none.
 func Lines(s string) []string {
 	lines := strings.SplitAfter(s, "\n")
@@ -94,4 +112,46 @@ func Read[T any](s string, read func(line string) (T, bool)) ([]T, int, api.Errn
 		l = append(l, x)
 	}
 	return l, len(l), api.OK
+}
+
+// Headed returns what first finds in the line 0 of a string, and what read finds in each further one, and the number of lines. If the string is too long, or has a line that is not understood, or none at all, it returns the error and the index that belongs to it.
+func Headed[H, T any](s string, first func(line string) (H, bool), read func(line string) (T, bool)) (H, []T, int, api.Errno) {
+	var none H
+	if len(s) > api.MaxText {
+		return none, nil, 0, api.ErrLong
+	}
+	end := len(s)
+	if i := strings.IndexByte(s, '\n'); i >= 0 {
+		end = i + 1
+	}
+	head, ok := first(s[:end])
+	if !ok {
+		return none, nil, 0, api.ErrSyntax
+	}
+	l, at, e := Read(s[end:], read)
+	if e != api.OK {
+		return none, nil, at + 1, e
+	}
+	return head, l, at + 1, api.OK
+}
+
+// Counted returns what read finds in each line of a string but the line 0, in which count finds how many they are; and the number of lines. With an error it returns the index that belongs to it.
+func Counted[T any](s string, count func(line string) (int, bool), read func(line string) (T, bool)) ([]T, int, api.Errno) {
+	n, l, at, e := Headed(s, count, read)
+	if e != api.OK {
+		return nil, at, e
+	}
+	if n != len(l) {
+		return nil, at, api.ErrShape
+	}
+	return l, at, api.OK
+}
+
+// Joined returns the string of lines, or ErrLong.
+func Joined(lines []string) (string, api.Errno) {
+	s := strings.Join(lines, "")
+	if len(s) > api.MaxText {
+		return "", api.ErrLong
+	}
+	return s, api.OK
 }

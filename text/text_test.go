@@ -101,7 +101,6 @@ func TestNumbers(t *testing.T) {
 
 // All lines are read, up to the first one that is wrong.
 func TestRead(t *testing.T) {
-	letter := func(line string) (string, bool) { return line[:1], len(line) == 2 && line[1] == '\n' }
 	full := strings.Repeat("a\n", api.MaxText/2)
 	for _, x := range []struct {
 		s    string
@@ -115,6 +114,101 @@ func TestRead(t *testing.T) {
 		l, n, e := text.Read(x.s, letter)
 		if got := strings.Join(l, ""); got != x.want || n != x.n || e != x.e {
 			t.Errorf("Read of %.20q: got %.20q, %d, %d", x.s, got, n, e)
+		}
+	}
+}
+
+// The words of a line are separated by one space.
+func TestLine(t *testing.T) {
+	for _, x := range []struct{ got, want string }{
+		{text.Line("a"), "a\n"}, {text.Line("a b", 1), "a b 1\n"}, {text.Line("a", 0, -7, 12), "a 0 -7 12\n"},
+	} {
+		if x.got != x.want {
+			t.Errorf("Line: got %q, want %q", x.got, x.want)
+		}
+	}
+}
+
+// A line has a word and an integer, and nothing else.
+func TestNumber(t *testing.T) {
+	for _, x := range []struct {
+		line string
+		n    int
+		ok   bool
+	}{
+		{"a 0\n", 0, true}, {"a 42\n", 42, true}, {"a 100\n", 0, false}, {"a 042\n", 0, false}, {"a -1\n", 0, false}, {"a 1", 0, false}, {"a\n", 0, false},
+		{"b 1\n", 0, false}, {"a  1\n", 0, false}, {"a 1 \n", 0, false}, {" a 1\n", 0, false}, {"a 1 1\n", 0, false}, {"a \n", 0, false}, {"\n", 0, false}, {"", 0, false},
+	} {
+		if n, ok := text.Number(x.line, "a", 2); n != x.n || ok != x.ok {
+			t.Errorf("Number of %q: got %d, %v", x.line, n, ok)
+		}
+	}
+}
+
+// letter reads a letter alone.
+func letter(line string) (string, bool) {
+	return line[:1], len(line) == 2 && line[0] >= 'a' && line[1] == '\n'
+}
+
+// digit reads a digit alone.
+func digit(line string) (int, bool) {
+	if len(line) != 2 || line[0] > '9' || line[1] != '\n' {
+		return 0, false
+	}
+	return int(line[0] - '0'), true
+}
+
+// The line 0 is read by one function, and all others by another one; Counted also compares their number.
+func TestHeadedAndCounted(t *testing.T) {
+	full := "2\n" + strings.Repeat("a\n", api.MaxText/2-1)
+	for _, x := range []struct {
+		s       string
+		head    int
+		want    string
+		n       int
+		e       api.Errno
+		counted api.Errno
+	}{
+		{"2\na\nb\n", 2, "ab", 3, api.OK, api.OK}, {"0\n", 0, "", 1, api.OK, api.OK}, {"1\na\nb\n", 1, "ab", 3, api.OK, api.ErrShape}, {"3\na\nb\n", 3, "ab", 3, api.OK, api.ErrShape}, {"1\n", 1, "", 1, api.OK, api.ErrShape},
+		{"", 0, "", 0, api.ErrSyntax, api.ErrSyntax}, {"\n", 0, "", 0, api.ErrSyntax, api.ErrSyntax}, {"1", 0, "", 0, api.ErrSyntax, api.ErrSyntax}, {"a\n", 0, "", 0, api.ErrSyntax, api.ErrSyntax},
+		{"1\n1\n", 0, "", 1, api.ErrSyntax, api.ErrSyntax}, {"1\na", 0, "", 1, api.ErrSyntax, api.ErrSyntax}, {"2\na\n\n", 0, "", 2, api.ErrSyntax, api.ErrSyntax}, {"9\na\nb", 0, "", 2, api.ErrSyntax, api.ErrSyntax},
+		{full, 2, strings.Repeat("a", api.MaxText/2-1), api.MaxText / 2, api.OK, api.ErrShape}, {full + "a", 0, "", 0, api.ErrLong, api.ErrLong}, {strings.Repeat("x", api.MaxText+1), 0, "", 0, api.ErrLong, api.ErrLong},
+	} {
+		head, l, n, e := text.Headed(x.s, digit, letter)
+		if got := strings.Join(l, ""); head != x.head || got != x.want || n != x.n || e != x.e {
+			t.Errorf("Headed of %.20q: got %d, %.20q, %d, %d", x.s, head, got, n, e)
+		}
+		l, n, e = text.Counted(x.s, digit, letter)
+		want := x.want
+		if x.counted != api.OK {
+			want = ""
+		}
+		if got := strings.Join(l, ""); got != want || n != x.n || e != x.counted {
+			t.Errorf("Counted of %.20q: got %.20q, %d, %d", x.s, got, n, e)
+		}
+	}
+}
+
+// The line 0 ends with the first line feed, also where there is nothing before it.
+func TestHeadedByNothing(t *testing.T) {
+	empty := func(line string) (string, bool) { return line, line == "\n" }
+	if head, l, n, e := text.Headed("\na\n", empty, letter); head != "\n" || len(l) != 1 || n != 2 || e != api.OK {
+		t.Errorf("Headed: got %q, %q, %d, %d", head, l, n, e)
+	}
+}
+
+// Lines are joined, up to the longest string.
+func TestJoined(t *testing.T) {
+	full := strings.Repeat("a", api.MaxText-2)
+	for _, x := range []struct {
+		lines []string
+		want  string
+		e     api.Errno
+	}{
+		{nil, "", api.OK}, {[]string{"a\n", "b\n"}, "a\nb\n", api.OK}, {[]string{"a\n", full}, "a\n" + full, api.OK}, {[]string{"aa\n", full}, "", api.ErrLong},
+	} {
+		if s, e := text.Joined(x.lines); s != x.want || e != x.e {
+			t.Errorf("Joined: got %.20q, %d", s, e)
 		}
 	}
 }

@@ -1,10 +1,10 @@
 package town
 
 import (
-	"strconv"
 	"strings"
 
 	"flyover/api"
+	"flyover/check"
 	"flyover/list"
 	"flyover/text"
 )
@@ -20,8 +20,7 @@ const numbers = 6
 
 // line returns the line of a wall.
 func (w Wall) line() string {
-	l := [numbers]int{w.A.X, w.A.Y, w.B.X, w.B.Y, w.Height, w.Echo}
-	return firstWord + " " + w.Name + " " + strings.Join(list.Mapped(l[:], strconv.Itoa), " ") + "\n"
+	return text.Line(firstWord+" "+w.Name, w.A.X, w.A.Y, w.B.X, w.B.Y, w.Height, w.Echo)
 }
 
 // Print returns the string of walls.
@@ -50,11 +49,8 @@ func readLine(line string) (Wall, bool) {
 // Parse returns the walls of a string, and the index of the first line that is wrong.
 func Parse(s string) ([]Wall, int, api.Errno) {
 	l, at, e := text.Read(s, readLine)
-	if e != api.OK {
-		return nil, at, e
-	}
-	if e := CheckWalls(l); e != api.OK {
-		return nil, at, e
+	if no := check.First(e, CheckWalls(l)); no != api.OK {
+		return nil, at, no
 	}
 	return l, 0, api.OK
 }
