@@ -116,14 +116,6 @@ func CheckAir(a []Layer) api.Errno {
 	return check.Each(a, func(x Layer) api.Errno { return x.check(bands(a)) })
 }
 
-// checkIndex returns ErrUnknown for an index that no layer has, or OK.
-func checkIndex(a []Layer, i int) api.Errno {
-	if i < 0 || i >= len(a) {
-		return api.ErrUnknown
-	}
-	return api.OK
-}
-
 // LayerAt returns the index of the layer at a height.
 func LayerAt(a []Layer, height int) (int, api.Errno) {
 	if e := check.First(CheckAir(a), checkHeight(height)); e != api.OK {
@@ -183,7 +175,7 @@ func checkSlowness(x api.Ratio) api.Errno {
 
 // Turned returns the layer at which a ray turns.
 func Turned(a []Layer, from int, slowness api.Ratio) (int, api.Errno) {
-	if e := check.First(CheckAir(a), checkIndex(a, from), checkSlowness(slowness)); e != api.OK {
+	if e := check.First(CheckAir(a), check.Index(a, from), checkSlowness(slowness)); e != api.OK {
 		return 0, e
 	}
 	turns := func(x Layer) bool { return x.Speed*slowness.Num >= slowness.Den }

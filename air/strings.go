@@ -37,12 +37,7 @@ func Print(a []Layer) (string, api.Errno) {
 
 // readLine returns the layer of a line, and whether the line has the form of one.
 func readLine(line string) (Layer, bool) {
-	w, ended := text.WordsOf(line)
-	take := w.Next
-	if !ended || take() != firstWords[0] {
-		return Layer{}, false
-	}
-	l, ok := w.Numbers(text.Signed, digits)
+	l, ok := text.Integers(line, firstWords[0], text.Signed, digits)
 	if !ok || len(l) < fixed+2 || len(l)%2 != 0 {
 		return Layer{}, false
 	}

@@ -38,7 +38,7 @@ func (x Layer) compare(y Layer, along api.Point) int {
 
 // Compared compares the speeds of two layers along a direction.
 func Compared(a []Layer, i, j int, along api.Point) (int, api.Errno) {
-	if e := check.First(CheckAir(a), checkIndex(a, i), checkIndex(a, j), checkAlong(along)); e != api.OK {
+	if e := check.First(CheckAir(a), check.Index(a, i), check.Index(a, j), checkAlong(along)); e != api.OK {
 		return 0, e
 	}
 	return a[i].compare(a[j], along), api.OK

@@ -71,6 +71,16 @@ func Within(n, low, high int) api.Errno {
 	return api.OK
 }
 
+// Index returns ErrUnknown for an index that no element of a list has, or OK.
+func Index[T any](l []T, i int) api.Errno {
+	return That(i >= 0 && i < len(l), api.ErrUnknown)
+}
+
+// Span returns ErrSpan for a span that is empty, or does not lie from 0 to a limit, or OK.
+func Span(x api.Span, limit int) api.Errno {
+	return That(x.From >= 0 && x.From < x.To && x.To <= limit, api.ErrSpan)
+}
+
 // Interval returns the first error of an interval whose ends f examines, or OK.
 func Interval(x api.Interval, f func(int) api.Errno) api.Errno {
 	if e := First(f(x.Low), f(x.High)); e != api.OK {

@@ -25,9 +25,8 @@ func reasons() [len(words)]reason {
 	}
 }
 
-// checkSpan returns ErrSpan for a span that is empty, or not within all times, or OK.
 func checkSpan(x api.Span) api.Errno {
-	return check.That(x.From >= 0 && x.From < x.To && x.To <= MaxTime, api.ErrSpan)
+	return check.Span(x, MaxTime)
 }
 
 // check returns the first error of an event that must not begin before a time, or OK.

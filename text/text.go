@@ -79,14 +79,23 @@ func (w *Words) Numbers(read func(word string, digits int) (int, bool), digits i
 	return l, true
 }
 
-// Number returns the integer of a line, and whether the line is a word and an integer with at most so many digits.
-func Number(line, word string, digits int) (int, bool) {
+// Integers returns those of a line, and whether the line is a word and any number of integers that read finds (as Integer or Signed do).
+func Integers(line, word string, read func(word string, digits int) (int, bool), digits int) ([]int, bool) {
 	w, ended := WordsOf(line)
 	take := w.Next
-	if !ended || w.Left() != 2 || take() != word {
+	if !ended || take() != word {
+		return nil, false
+	}
+	return w.Numbers(read, digits)
+}
+
+// Number returns the integer of a line, and whether the line is a word and an integer with at most so many digits.
+func Number(line, word string, digits int) (int, bool) {
+	l, ok := Integers(line, word, Integer, digits)
+	if !ok || len(l) != 1 {
 		return 0, false
 	}
-	return Integer(take(), digits)
+	return l[0], true
 }
 
 // Lines returns the lines of a string, each with its line feed if it has one; the empty string has none.

@@ -145,6 +145,24 @@ func TestNumber(t *testing.T) {
 	}
 }
 
+// A line has a word and any number of integers, and nothing else.
+func TestIntegers(t *testing.T) {
+	for _, x := range []struct {
+		line string
+		read func(word string, digits int) (int, bool)
+		l    []int
+		ok   bool
+	}{
+		{"a 1 0 42\n", text.Integer, []int{1, 0, 42}, true}, {"a\n", text.Integer, nil, true}, {"a -7 42\n", text.Signed, []int{-7, 42}, true}, {"a -7\n", text.Integer, nil, false},
+		{"a 100\n", text.Integer, nil, false}, {"a 1 \n", text.Integer, nil, false}, {"a  1\n", text.Integer, nil, false}, {" a 1\n", text.Integer, nil, false}, {"a 1", text.Integer, nil, false}, {"a 1 b\n", text.Signed, nil, false},
+		{"b 1\n", text.Integer, nil, false}, {"ab 1\n", text.Integer, nil, false}, {"a\t1\n", text.Integer, nil, false}, {"a 1\r\n", text.Integer, nil, false}, {"\n", text.Integer, nil, false}, {"", text.Integer, nil, false},
+	} {
+		if l, ok := text.Integers(x.line, "a", x.read, 2); !slices.Equal(l, x.l) || ok != x.ok {
+			t.Errorf("Integers of %q: got %v, %v", x.line, l, ok)
+		}
+	}
+}
+
 // letter reads a letter alone.
 func letter(line string) (string, bool) {
 	return line[:1], len(line) == 2 && line[0] >= 'a' && line[1] == '\n'

@@ -50,14 +50,9 @@ func mirror(l []Wall, wall int, s, r api.Vector) (Mirror, bool) {
 	}, true
 }
 
-// checkIndex returns ErrUnknown for an index that no wall has, or OK.
-func checkIndex(l []Wall, i int) api.Errno {
-	return check.That(i >= 0 && i < len(l), api.ErrUnknown)
-}
-
 // Reflected returns the mirror of a wall that reflects a path.
 func Reflected(l []Wall, wall int, s, r api.Vector) (Mirror, api.Errno) {
-	if e := check.First(CheckWalls(l), checkIndex(l, wall), checkSpots(s, r)); e != api.OK {
+	if e := check.First(CheckWalls(l), check.Index(l, wall), checkSpots(s, r)); e != api.OK {
 		return Mirror{}, e
 	}
 	if !l[wall].even() {
