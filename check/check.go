@@ -31,20 +31,21 @@ func Each[T any](l []T, f func(T) api.Errno) api.Errno {
 	return api.OK
 }
 
-// Distinct returns the error of the first element for which f finds one, or ErrTwice if an element before it has its name; or OK.
-func Distinct[T any](l []T, f func(T) api.Errno, name func(T) string) api.Errno {
-	once := Once()
-	return Each(l, func(x T) api.Errno { return First(f(x), once(name(x))) })
-}
+// Once returns ErrTwice for a name that it was given before, or OK.
+type Once func(name string) api.Errno
 
-// Once returns a function that returns ErrTwice for a name that it was given before, or OK.
-func Once() func(name string) api.Errno {
+// Named returns ErrMany for a list with more elements than a limit, or the error of the first element for which f finds one, or OK. With each element f gets what tells the names that are there twice.
+func Named[T any](l []T, limit int, f func(x T, once Once) api.Errno) api.Errno {
+	if e := AtMost(l, limit); e != api.OK {
+		return e
+	}
 	seen := map[string]bool{}
-	return func(name string) api.Errno {
+	once := func(name string) api.Errno {
 		twice := seen[name]
 		seen[name] = true
 		return That(!twice, api.ErrTwice)
 	}
+	return Each(l, func(x T) api.Errno { return f(x, once) })
 }
 
 // AtMost returns ErrMany for a list with more elements than a limit, or OK.
@@ -74,6 +75,17 @@ func Within(n, low, high int) api.Errno {
 // Index returns ErrUnknown for an index that no element of a list has, or OK.
 func Index[T any](l []T, i int) api.Errno {
 	return That(i >= 0 && i < len(l), api.ErrUnknown)
+}
+
+// Ascending returns the error of the first integer for which f finds one, or ErrOrder if it is not above the one before it; or OK.
+func Ascending(l []int, f func(int) api.Errno) api.Errno {
+	for i, n := range l {
+		ordered := i == 0 || n > l[i-1]
+		if e := First(f(n), That(ordered, api.ErrOrder)); e != api.OK {
+			return e
+		}
+	}
+	return api.OK
 }
 
 // Span returns ErrSpan for a span that is empty, or does not lie from 0 to a limit, or OK.

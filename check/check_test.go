@@ -2,7 +2,6 @@ package check_test
 
 import (
 	"math"
-	"strconv"
 	"testing"
 
 	"flyover/api"
@@ -21,9 +20,8 @@ func TestChecks(t *testing.T) {
 		{check.First(), api.OK}, {check.First(api.OK, api.OK), api.OK}, {check.First(api.OK, api.ErrZero, api.ErrForm), api.ErrZero},
 		{check.Each(nil, even), api.OK}, {check.Each([]int{2, 4}, even), api.OK}, {check.Each([]int{2, 5, 3}, even), api.Errno(5)},
 		{check.That(true, api.ErrForm), api.OK}, {check.That(false, api.ErrForm), api.ErrForm},
-		{check.Distinct(nil, even, strconv.Itoa), api.OK}, {check.Distinct([]int{2, 4}, even, strconv.Itoa), api.OK},
-		{check.Distinct([]int{2, 4, 2, 5}, even, strconv.Itoa), api.ErrTwice}, {check.Distinct([]int{2, 4, 5, 2}, even, strconv.Itoa), api.Errno(5)},
-		{check.Distinct([]int{5, 5}, even, strconv.Itoa), api.Errno(5)},
+		{check.Ascending(nil, even), api.OK}, {check.Ascending([]int{-2}, even), api.OK}, {check.Ascending([]int{-2, 0, 8}, even), api.OK}, {check.Ascending([]int{2, 2, 5}, even), api.ErrOrder},
+		{check.Ascending([]int{4, 2}, even), api.ErrOrder}, {check.Ascending([]int{4, 3}, even), api.Errno(3)}, {check.Ascending([]int{math.MinInt, math.MaxInt - 1, 6}, even), api.ErrOrder},
 		{check.AtMost([]int{1, 2}, 2), api.OK}, {check.AtMost([]int{1, 2, 3}, 2), api.ErrMany},
 		{check.Count([]int{}, 2), api.ErrEmpty}, {check.Count([]int{1}, 2), api.OK}, {check.Count([]int{1, 2}, 2), api.OK}, {check.Count([]int{1, 2, 3}, 2), api.ErrMany},
 		{check.Within(1, 1, 3), api.OK}, {check.Within(3, 1, 3), api.OK}, {check.Within(0, 1, 3), api.ErrRange},
@@ -43,18 +41,23 @@ func TestChecks(t *testing.T) {
 	}
 }
 
-// A name is there once, whatever comes between.
-func TestOnce(t *testing.T) {
-	once, other := check.Once(), check.Once()
+// A name is there once, whatever comes between, in a list that is not too long.
+func TestNamed(t *testing.T) {
+	short := func(s string, once check.Once) api.Errno {
+		return check.First(check.That(len(s) < 2, api.ErrName), once(s), check.That(s != "z", api.ErrForm))
+	}
 	for i, x := range []struct {
-		name string
+		l    []string
 		want api.Errno
-	}{{"a", api.OK}, {"b", api.OK}, {"A", api.OK}, {"a", api.ErrTwice}, {"", api.OK}, {"a", api.ErrTwice}, {"", api.ErrTwice}, {"c", api.OK}} {
-		if got := once(x.name); got != x.want {
-			t.Errorf("name %d: got %d, want %d", i, got, x.want)
+	}{
+		{nil, api.OK}, {[]string{"a"}, api.OK}, {[]string{"a", "b", "A", ""}, api.OK}, {[]string{"a", "b", "A", "", "c"}, api.ErrMany}, {[]string{"aa", "z", "a", "a", "a"}, api.ErrMany},
+		{[]string{"a", "b", "A", "a"}, api.ErrTwice}, {[]string{"", "b", ""}, api.ErrTwice}, {[]string{"a", "a", "bb"}, api.ErrTwice}, {[]string{"a", "bb", "a"}, api.ErrName}, {[]string{"bb", "bb"}, api.ErrName}, {[]string{"z", "z"}, api.ErrForm},
+	} {
+		if got := check.Named(x.l, 4, short); got != x.want {
+			t.Errorf("list %d: got %d, want %d", i, got, x.want)
 		}
 	}
-	if got := other("a"); got != api.OK {
-		t.Errorf("a name that was given to another function: got %d", got)
+	if got := check.Named([]string{"a", "a"}, 4, func(s string, once check.Once) api.Errno { return api.OK }); got != api.OK {
+		t.Errorf("names that are not asked for: got %d", got)
 	}
 }

@@ -3,7 +3,6 @@ package contour
 import (
 	"flyover/api"
 	"flyover/check"
-	"flyover/sound"
 )
 
 func checkCount(n int) api.Errno {
@@ -20,15 +19,7 @@ func checkPeople(g Grid, people []api.Interval) api.Errno {
 
 // checkLevels returns the first error of the levels of classes, or OK.
 func checkLevels(l []int) api.Errno {
-	if e := check.Count(l, MaxClasses); e != api.OK {
-		return e
-	}
-	before := sound.None
-	return check.Each(l, func(level int) api.Errno {
-		ordered := level > before
-		before = level
-		return check.First(checkLevel(level), check.That(ordered, api.ErrOrder))
-	})
+	return check.First(check.Count(l, MaxClasses), check.Ascending(l, checkLevel))
 }
 
 // exposed returns the sum of the people of all cells whose level is one of a span.

@@ -61,11 +61,7 @@ func checkName(s string) api.Errno {
 
 // CheckPasses returns the first error of passes, or OK.
 func CheckPasses(l []Pass) api.Errno {
-	if e := check.AtMost(l, api.MaxExact); e != api.OK {
-		return e
-	}
-	once := check.Once()
-	return check.Each(l, func(p Pass) api.Errno {
+	return check.Named(l, api.MaxExact, func(p Pass, once check.Once) api.Errno {
 		return check.First(
 			checkName(p.Name),
 			once(p.Name),

@@ -40,11 +40,7 @@ func named(types []Type) (map[string]Type, api.Errno) {
 
 // checkListed returns the first error of flights with types that are known, or OK.
 func checkListed(known map[string]Type, l []Flight) api.Errno {
-	if e := check.AtMost(l, MaxFlights); e != api.OK {
-		return e
-	}
-	once := check.Once()
-	return check.Each(l, func(f Flight) api.Errno {
+	return check.Named(l, MaxFlights, func(f Flight, once check.Once) api.Errno {
 		_, ok := known[f.Type]
 		return check.First(checkName(f.Name), once(f.Name), check.That(ok, api.ErrUnknown), CheckTrack(f.Track))
 	})

@@ -14,12 +14,12 @@ var firstWords = [5]string{"type", "shares", "direct", "squares", "power"}
 // digits is how many an integer of a line has at most.
 const digits = 12
 
-// form is that of a line: whether it has a name, how many integers follow, and what it sets in a type.
+// form is that of a line: how many words and how many integers follow the first word, and what they set in a type.
 type form struct {
-	named bool
+	words int
 	least int
 	most  int
-	set   func(t *Type, l []int)
+	set   func(t *Type, words []string, l []int)
 }
 
 // forms returns the forms of lines, in the order of their first words.
@@ -27,11 +27,11 @@ func forms() [len(firstWords)]form {
 	// No line of a string that is not too long has as many integers.
 	const many = api.MaxText
 	return [len(firstWords)]form{
-		{named: true, least: 1, most: 1, set: func(t *Type, l []int) { t.Side = l[0] }},
-		{most: many, set: func(t *Type, l []int) { t.Shares = l }},
-		{least: 8, most: 8, set: func(t *Type, l []int) { t.Direct = [8]int(l) }},
-		{most: many, set: func(t *Type, l []int) { t.Squares = l }},
-		{least: 1, most: many, set: func(t *Type, l []int) {
+		{words: 1, least: 1, most: 1, set: func(t *Type, words []string, l []int) { t.Name, t.Side = words[0], l[0] }},
+		{most: many, set: func(t *Type, _ []string, l []int) { t.Shares = l }},
+		{least: 8, most: 8, set: func(t *Type, _ []string, l []int) { t.Direct = [8]int(l) }},
+		{most: many, set: func(t *Type, _ []string, l []int) { t.Squares = l }},
+		{least: 1, most: many, set: func(t *Type, _ []string, l []int) {
 			t.Settings = append(t.Settings, Setting{Power: l[0], Energies: slices.Clone(l[1:])})
 		}},
 	}
@@ -54,7 +54,7 @@ func Print(t Type) (string, api.Errno) {
 	var s strings.Builder
 	for i, row := range rows {
 		words := firstWords[kind(i)]
-		if forms()[kind(i)].named {
+		if forms()[kind(i)].words > 0 {
 			words += " " + t.Name
 		}
 		s.WriteString(text.Line(words, row...))
@@ -65,22 +65,11 @@ func Print(t Type) (string, api.Errno) {
 // readLine sets what a line says in a type, and reports whether the line has its form.
 func readLine(t *Type, line string, at int) bool {
 	f := forms()[kind(at)]
-	w, ended := text.WordsOf(line)
-	take := w.Next
-	if !ended || take() != firstWords[kind(at)] {
-		return false
-	}
-	if f.named {
-		t.Name = take()
-		if t.Name == "" {
-			return false
-		}
-	}
-	l, ok := w.Numbers(text.Integer, digits)
+	words, l, ok := text.Fields(line, firstWords[kind(at)], f.words, text.Integer, digits)
 	if !ok || len(l) < f.least || len(l) > f.most {
 		return false
 	}
-	f.set(t, l)
+	f.set(t, words, l)
 	return true
 }
 

@@ -79,14 +79,28 @@ func (w *Words) Numbers(read func(word string, digits int) (int, bool), digits i
 	return l, true
 }
 
-// Integers returns those of a line, and whether the line is a word and any number of integers that read finds (as Integer or Signed do).
-func Integers(line, word string, read func(word string, digits int) (int, bool), digits int) ([]int, bool) {
+// Fields returns the words and the integers of a line, and whether the line is its first word, so many words of at least one byte, and any number of integers that read finds (as Integer or Signed do).
+func Fields(line, first string, words int, read func(word string, digits int) (int, bool), digits int) ([]string, []int, bool) {
 	w, ended := WordsOf(line)
 	take := w.Next
-	if !ended || take() != word {
-		return nil, false
+	if !ended || take() != first {
+		return nil, nil, false
 	}
-	return w.Numbers(read, digits)
+	l := make([]string, words)
+	for i := range l {
+		l[i] = take()
+	}
+	n, ok := w.Numbers(read, digits)
+	if !ok || slices.Contains(l, "") {
+		return nil, nil, false
+	}
+	return l, n, true
+}
+
+// Integers returns those of a line, and whether the line is a word and any number of integers that read finds (as Integer or Signed do).
+func Integers(line, word string, read func(word string, digits int) (int, bool), digits int) ([]int, bool) {
+	_, l, ok := Fields(line, word, 0, read, digits)
+	return l, ok
 }
 
 // Number returns the integer of a line, and whether the line is a word and an integer with at most so many digits.

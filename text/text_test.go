@@ -163,6 +163,26 @@ func TestIntegers(t *testing.T) {
 	}
 }
 
+// A line has a first word, so many words, and any number of integers, and nothing else.
+func TestFields(t *testing.T) {
+	for _, x := range []struct {
+		line  string
+		words int
+		read  func(word string, digits int) (int, bool)
+		l     []string
+		n     []int
+		ok    bool
+	}{
+		{"a b 1 0\n", 1, text.Integer, []string{"b"}, []int{1, 0}, true}, {"a b c -42\n", 2, text.Signed, []string{"b", "c"}, []int{-42}, true}, {"a b c\n", 2, text.Integer, []string{"b", "c"}, nil, true}, {"a\n", 0, text.Integer, nil, nil, true}, {"a 1\n", 0, text.Integer, nil, []int{1}, true}, {"a 1 2\n", 1, text.Integer, []string{"1"}, []int{2}, true}, {"a a\t 7\n", 1, text.Integer, []string{"a\t"}, []int{7}, true},
+		{"a b\n", 2, text.Integer, nil, nil, false}, {"a\n", 1, text.Integer, nil, nil, false}, {"a \n", 1, text.Integer, nil, nil, false}, {"a  b 1\n", 2, text.Integer, nil, nil, false}, {"a  1\n", 1, text.Integer, nil, nil, false}, {"a b  1\n", 2, text.Integer, nil, nil, false}, {"a b c 1\n", 1, text.Integer, nil, nil, false}, {"a b 1 c\n", 1, text.Integer, nil, nil, false},
+		{"a b 1", 1, text.Integer, nil, nil, false}, {"a b 1 \n", 1, text.Integer, nil, nil, false}, {" a b 1\n", 1, text.Integer, nil, nil, false}, {"b a 1\n", 1, text.Integer, nil, nil, false}, {"a b 100\n", 1, text.Integer, nil, nil, false}, {"a b -1\n", 1, text.Integer, nil, nil, false}, {"a b 01\n", 1, text.Signed, nil, nil, false}, {"", 0, text.Integer, nil, nil, false}, {"\n", 1, text.Integer, nil, nil, false},
+	} {
+		if l, n, ok := text.Fields(x.line, "a", x.words, x.read, 2); !slices.Equal(l, x.l) || !slices.Equal(n, x.n) || ok != x.ok {
+			t.Errorf("Fields of %q: got %q, %v, %v", x.line, l, n, ok)
+		}
+	}
+}
+
 // letter reads a letter alone.
 func letter(line string) (string, bool) {
 	return line[:1], len(line) == 2 && line[0] >= 'a' && line[1] == '\n'

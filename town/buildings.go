@@ -70,10 +70,9 @@ func (b Building) check() api.Errno {
 
 // CheckBuildings returns the first error of buildings, or OK.
 func CheckBuildings(l []Building) api.Errno {
-	if e := check.AtMost(l, MaxBuildings); e != api.OK {
-		return e
-	}
-	return check.Distinct(l, Building.check, func(b Building) string { return b.Name })
+	return check.Named(l, MaxBuildings, func(b Building, once check.Once) api.Errno {
+		return check.First(b.check(), once(b.Name))
+	})
 }
 
 // Walls returns the walls of buildings.

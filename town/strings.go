@@ -33,17 +33,11 @@ func Print(l []Wall) (string, api.Errno) {
 
 // readLine returns the wall of a line, and whether the line has the form of one.
 func readLine(line string) (Wall, bool) {
-	w, ended := text.WordsOf(line)
-	take := w.Next
-	if !ended || take() != firstWord {
+	words, l, ok := text.Fields(line, firstWord, 1, text.Signed, digits)
+	if !ok || len(l) != numbers {
 		return Wall{}, false
 	}
-	name := take()
-	l, ok := w.Numbers(text.Signed, digits)
-	if !ok || name == "" || len(l) != numbers {
-		return Wall{}, false
-	}
-	return Wall{Name: name, A: api.Point{X: l[0], Y: l[1]}, B: api.Point{X: l[2], Y: l[3]}, Height: l[4], Echo: l[5]}, true
+	return Wall{Name: words[0], A: api.Point{X: l[0], Y: l[1]}, B: api.Point{X: l[2], Y: l[3]}, Height: l[4], Echo: l[5]}, true
 }
 
 // Parse returns the walls of a string, and the index of the first line that is wrong.

@@ -62,10 +62,9 @@ func (w Wall) check() api.Errno {
 
 // CheckWalls returns the first error of walls, or OK.
 func CheckWalls(l []Wall) api.Errno {
-	if e := check.AtMost(l, MaxWalls); e != api.OK {
-		return e
-	}
-	return check.Distinct(l, Wall.check, func(w Wall) string { return w.Name })
+	return check.Named(l, MaxWalls, func(w Wall, once check.Once) api.Errno {
+		return check.First(w.check(), once(w.Name))
+	})
 }
 
 // Side returns the side of a point by a wall.
