@@ -21,10 +21,7 @@ const fixed = 4
 // line returns the line of a layer.
 func (x Layer) line() string {
 	l := []int{x.Thickness, x.Speed, x.Wind.X, x.Wind.Y}
-	for _, pass := range x.Pass {
-		l = append(l, pass.Low, pass.High)
-	}
-	return text.Line(firstWords[0], l...)
+	return text.Line(firstWords[0], append(l, text.Ends(x.Pass)...)...)
 }
 
 // Print returns the string of an air.
@@ -41,11 +38,7 @@ func readLine(line string) (Layer, bool) {
 	if !ok || len(l) < fixed+2 || len(l)%2 != 0 {
 		return Layer{}, false
 	}
-	x := Layer{Thickness: l[0], Speed: l[1], Wind: api.Point{X: l[2], Y: l[3]}}
-	for i := fixed; i < len(l); i += 2 {
-		x.Pass = append(x.Pass, api.Interval{Low: l[i], High: l[i+1]})
-	}
-	return x, true
+	return Layer{Thickness: l[0], Speed: l[1], Wind: api.Point{X: l[2], Y: l[3]}, Pass: text.Intervals(l[fixed:])}, true
 }
 
 // Parse returns the air of a string, and the index of the first line that is wrong.

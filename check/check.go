@@ -21,6 +21,23 @@ func That(holds bool, e api.Errno) api.Errno {
 	return api.OK
 }
 
+// Fault is something that can be wrong, and how it is told: by an error or by a word.
+type Fault[T, W any] struct {
+	Tell  W
+	Holds func(x T) bool
+}
+
+// Wrong returns how the first fault that holds for something is told, or the zero value if none does.
+func Wrong[T, W any](x T, faults []Fault[T, W]) W {
+	for _, f := range faults {
+		if f.Holds(x) {
+			return f.Tell
+		}
+	}
+	var right W
+	return right
+}
+
 // Each returns the error of the first element for which f finds one, or OK.
 func Each[T any](l []T, f func(T) api.Errno) api.Errno {
 	for _, x := range l {

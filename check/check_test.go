@@ -41,6 +41,33 @@ func TestChecks(t *testing.T) {
 	}
 }
 
+// The first fault that holds decides, and those after it are not asked.
+func TestWrong(t *testing.T) {
+	asked := 0
+	faults := []check.Fault[int, string]{
+		{Tell: "low", Holds: func(n int) bool { return n < 0 }},
+		{Tell: "odd", Holds: func(n int) bool { return n%2 != 0 }},
+		{Tell: "high", Holds: func(n int) bool {
+			asked++
+			return n > 9
+		}},
+	}
+	for _, x := range []struct {
+		n    int
+		want string
+	}{{0, ""}, {8, ""}, {-2, "low"}, {-1, "low"}, {3, "odd"}, {11, "odd"}, {10, "high"}} {
+		if got := check.Wrong(x.n, faults); got != x.want {
+			t.Errorf("what is wrong with %d: got %q, want %q", x.n, got, x.want)
+		}
+	}
+	if asked != 3 {
+		t.Errorf("the last fault was asked %d times", asked)
+	}
+	if got := check.Wrong[int, api.Errno](-1, nil); got != api.OK {
+		t.Errorf("without faults: got %d", got)
+	}
+}
+
 // A name is there once, whatever comes between, in a list that is not too long.
 func TestNamed(t *testing.T) {
 	short := func(s string, once check.Once) api.Errno {

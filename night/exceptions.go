@@ -18,12 +18,12 @@ type filed struct {
 }
 
 // faults returns those of exceptions.
-func (r Rules) faults() []fault[filed] {
-	return []fault[filed]{
-		{word: "reason", holds: func(x filed) bool { return !slices.Contains(r.Reasons, x.Reason) }},
-		{word: "early", holds: func(x filed) bool { return x.Day < x.move.Day }},
-		{word: "late", holds: func(x filed) bool { return x.Day > x.move.Day+r.Deadline }},
-		{word: "evidence", holds: func(x filed) bool { return x.Evidence != r.evidence(x.Flight, x.Reason) }},
+func (r Rules) faults() []check.Fault[filed, string] {
+	return []check.Fault[filed, string]{
+		{Tell: "reason", Holds: func(x filed) bool { return !slices.Contains(r.Reasons, x.Reason) }},
+		{Tell: "early", Holds: func(x filed) bool { return x.Day < x.move.Day }},
+		{Tell: "late", Holds: func(x filed) bool { return x.Day > x.move.Day+r.Deadline }},
+		{Tell: "evidence", Holds: func(x filed) bool { return x.Evidence != r.evidence(x.Flight, x.Reason) }},
 	}
 }
 
@@ -58,7 +58,7 @@ func Valid(r Rules, l []Move, x Exception) (string, api.Errno) {
 	if e := CheckExceptions(r, l, []Exception{x}); e != api.OK {
 		return "", e
 	}
-	return wrong(filed{x, byFlight(l)[x.Flight]}, r.faults()), api.OK
+	return check.Wrong(filed{x, byFlight(l)[x.Flight]}, r.faults()), api.OK
 }
 
 // evidence returns that for a flight and a reason.
@@ -89,7 +89,7 @@ search:
 			if y.Flight != m.Flight {
 				continue
 			}
-			reason = wrong(filed{y, m}, r.faults())
+			reason = check.Wrong(filed{y, m}, r.faults())
 			if reason == "" {
 				continue search
 			}

@@ -62,10 +62,10 @@ func (r Rules) crowded(x set) bool {
 }
 
 // excesses returns the faults of sets.
-func (r Rules) excesses() []fault[set] {
-	return []fault[set]{
-		{word: "quota", holds: func(x set) bool { return x.count > r.Quota }},
-		{word: "rate", holds: r.crowded},
+func (r Rules) excesses() []check.Fault[set, string] {
+	return []check.Fault[set, string]{
+		{Tell: "quota", Holds: func(x set) bool { return x.count > r.Quota }},
+		{Tell: "rate", Holds: r.crowded},
 	}
 }
 
@@ -97,7 +97,7 @@ func Fits(r Rules, l []Request, granted []int) (string, api.Errno) {
 	for _, i := range granted {
 		x = r.with(x, l, i)
 	}
-	return wrong(x, r.excesses()), api.OK
+	return check.Wrong(x, r.excesses()), api.OK
 }
 
 // Plan returns the best set of requests, and its value.
@@ -106,7 +106,7 @@ func Plan(r Rules, l []Request) ([]int, int, api.Errno) {
 		return nil, 0, e
 	}
 	// The set without requests always fits, so that there is a best one.
-	fitting := slices.DeleteFunc(r.sets(l), func(x set) bool { return wrong(x, r.excesses()) != "" })
+	fitting := slices.DeleteFunc(r.sets(l), func(x set) bool { return check.Wrong(x, r.excesses()) != "" })
 	best := slices.MinFunc(fitting, set.compare)
 	return best.granted, best.value, api.OK
 }

@@ -8,22 +8,6 @@ import (
 	"flyover/sound"
 )
 
-// fault is something that can be wrong, with its word.
-type fault[T any] struct {
-	word  string
-	holds func(x T) bool
-}
-
-// wrong returns the word of the first fault that holds for something, or the empty string if none does.
-func wrong[T any](x T, faults []fault[T]) string {
-	for _, f := range faults {
-		if f.holds(x) {
-			return f.word
-		}
-	}
-	return ""
-}
-
 func checkName(s string) api.Errno {
 	return check.That(sound.IsName(s), api.ErrName)
 }

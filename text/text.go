@@ -103,6 +103,24 @@ func Integers(line, word string, read func(word string, digits int) (int, bool),
 	return l, ok
 }
 
+// Ends returns Low and High of each interval, one after the other, as lines have them.
+func Ends(l []api.Interval) []int {
+	ends := make([]int, 0, 2*len(l))
+	for _, x := range l {
+		ends = append(ends, x.Low, x.High)
+	}
+	return ends
+}
+
+// Intervals returns the intervals with these ends, of which there is an even number.
+func Intervals(ends []int) []api.Interval {
+	l := make([]api.Interval, 0, len(ends)/2)
+	for pair := range slices.Chunk(ends, 2) {
+		l = append(l, api.Interval{Low: pair[0], High: pair[1]})
+	}
+	return l
+}
+
 // Number returns the integer of a line, and whether the line is a word and an integer with at most so many digits.
 func Number(line, word string, digits int) (int, bool) {
 	l, ok := Integers(line, word, Integer, digits)

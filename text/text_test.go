@@ -183,6 +183,23 @@ func TestFields(t *testing.T) {
 	}
 }
 
+// The ends of intervals stand one after the other, and intervals come back from them.
+func TestEndsAndIntervals(t *testing.T) {
+	for _, x := range []struct {
+		l    []api.Interval
+		ends []int
+	}{
+		{nil, nil}, {[]api.Interval{{Low: 3, High: 7}}, []int{3, 7}}, {[]api.Interval{{Low: 2, High: 2}, {Low: -1, High: 0}, {Low: 5, High: 4}}, []int{2, 2, -1, 0, 5, 4}},
+	} {
+		if got := text.Ends(x.l); !slices.Equal(got, x.ends) {
+			t.Errorf("ends of %v: got %v", x.l, got)
+		}
+		if got := text.Intervals(x.ends); !slices.Equal(got, x.l) {
+			t.Errorf("intervals of %v: got %v", x.ends, got)
+		}
+	}
+}
+
 // letter reads a letter alone.
 func letter(line string) (string, bool) {
 	return line[:1], len(line) == 2 && line[0] >= 'a' && line[1] == '\n'
