@@ -30,6 +30,9 @@ func Down(n, d int) int { return n / d }
 // Up returns n / d, n from 0 on and d above 0, rounded up.
 func Up(n, d int) int { return (n + d - 1) / d }
 
+// Nearest returns n / d, n from 0 on and d above 0, rounded to the nearest integer, from the middle to the greater one.
+func Nearest(n, d int) int { return (2*n + d) / (2 * d) }
+
 // Root returns the interval of the square root of n / d, n from 0 on and d above 0: from it rounded down to it rounded up.
 func Root(n, d int) api.Interval {
 	q := n / d

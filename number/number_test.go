@@ -48,6 +48,25 @@ func TestDownAndUp(t *testing.T) {
 	}
 }
 
+// A quotient is rounded to the nearest integer, from the middle to the greater one.
+func TestNearest(t *testing.T) {
+	for n := range 200 {
+		for d := 1; d < 20; d++ {
+			// Twice the quotient lies from twice the integer less 1 on, before twice the integer plus 1.
+			if x := number.Nearest(n, d); 2*n < (2*x-1)*d || 2*n >= (2*x+1)*d {
+				t.Errorf("%d by %d: got %d", n, d, x)
+			}
+		}
+	}
+	for _, x := range []struct{ n, d, want int }{
+		{5, 2, 3}, {7, 2, 4}, {1, 3, 0}, {2, 3, 1}, {640000000000000000, 640000000000000, 1000}, {864000000000000000, 86400, 10000000000000},
+	} {
+		if got := number.Nearest(x.n, x.d); got != x.want {
+			t.Errorf("Nearest of %d by %d: got %d, want %d", x.n, x.d, got, x.want)
+		}
+	}
+}
+
 // A root lies between both ends, which are the same exactly for the root of a square.
 func TestRoot(t *testing.T) {
 	for n := range 2000 {

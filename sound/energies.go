@@ -7,6 +7,7 @@ import (
 	"flyover/api"
 	"flyover/check"
 	"flyover/list"
+	"flyover/number"
 )
 
 // steps has the thresholds of the first ten levels; those of each further ten are ten times as high.
@@ -110,11 +111,6 @@ func checkTicks(ticks []int, n int) api.Errno {
 	return check.Each(ticks, func(t int) api.Errno { return check.Within(t, 0, Day) })
 }
 
-// rounded returns n / d, neither below 0, rounded to the nearest integer, from the middle to the greater one.
-func rounded(n, d int) int {
-	return (2*n + d) / (2 * d)
-}
-
 // Average returns the mean of energies, each over as many ticks as it lasts.
 func Average(l, ticks []int) (int, api.Errno) {
 	if e := check.First(checkEnergies(l), checkTicks(ticks, len(l))); e != api.OK {
@@ -131,7 +127,7 @@ func Average(l, ticks []int) (int, api.Errno) {
 	for i, e := range l {
 		sum += e * ticks[i]
 	}
-	return rounded(sum, all), api.OK
+	return number.Nearest(sum, all), api.OK
 }
 
 func (h Heard) check() api.Errno {

@@ -3,6 +3,7 @@ package sound
 import (
 	"flyover/api"
 	"flyover/check"
+	"flyover/number"
 )
 
 // checkFactor returns ErrRange for a factor, or a weight, that is not from 0 to Whole, or OK.
@@ -18,7 +19,7 @@ func Weighted(s api.Spectrum, weights [api.MaxBands]int) (api.Spectrum, api.Errn
 	var changed api.Spectrum
 	copy(changed[:], s[:])
 	for i, w := range weights {
-		changed[i] = rounded(changed[i]*w, Whole)
+		changed[i] = number.Nearest(changed[i]*w, Whole)
 	}
 	return changed, api.OK
 }
