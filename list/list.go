@@ -9,3 +9,14 @@ func Mapped[A, B any](l []A, f func(A) B) []B {
 	}
 	return out
 }
+
+// Filtered returns the elements for which f holds, in their order.
+func Filtered[T any](l []T, f func(T) bool) []T {
+	var out []T
+	for _, x := range l {
+		if f(x) {
+			out = append(out, x)
+		}
+	}
+	return out
+}

@@ -20,10 +20,15 @@ type Words struct {
 	left []string
 }
 
+// WordsIn returns the words of a string, in which a line feed is a byte like others.
+func WordsIn(s string) Words {
+	return Words{strings.Split(s, " ")}
+}
+
 // WordsOf returns the words of a line, and whether the line has a line feed at its end.
 func WordsOf(line string) (Words, bool) {
 	s, ended := strings.CutSuffix(line, "\n")
-	return Words{strings.Split(s, " ")}, ended
+	return WordsIn(s), ended
 }
 
 // Left returns how many words are left.
@@ -79,13 +84,9 @@ func (w *Words) Numbers(read func(word string, digits int) (int, bool), digits i
 	return l, true
 }
 
-// Fields returns the words and the integers of a line, and whether the line is its first word, so many words of at least one byte, and any number of integers that read finds (as Integer or Signed do).
-func Fields(line, first string, words int, read func(word string, digits int) (int, bool), digits int) ([]string, []int, bool) {
-	w, ended := WordsOf(line)
+// Fields takes all words that are left, and returns so many words and the integers that read finds in the others (as Integer or Signed do), and whether each word has at least one byte and each of the others is an integer.
+func (w *Words) Fields(words int, read func(word string, digits int) (int, bool), digits int) ([]string, []int, bool) {
 	take := w.Next
-	if !ended || take() != first {
-		return nil, nil, false
-	}
 	l := make([]string, words)
 	for i := range l {
 		l[i] = take()
@@ -95,6 +96,15 @@ func Fields(line, first string, words int, read func(word string, digits int) (i
 		return nil, nil, false
 	}
 	return l, n, true
+}
+
+// Fields returns the words and the integers of a line, and whether the line is its first word, so many words of at least one byte, and any number of integers that read finds (as Integer or Signed do).
+func Fields(line, first string, words int, read func(word string, digits int) (int, bool), digits int) ([]string, []int, bool) {
+	w, ended := WordsOf(line)
+	if !ended || w.Next() != first {
+		return nil, nil, false
+	}
+	return w.Fields(words, read, digits)
 }
 
 // Integers returns those of a line, and whether the line is a word and any number of integers that read finds (as Integer or Signed do).

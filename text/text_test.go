@@ -45,6 +45,20 @@ func TestWords(t *testing.T) {
 	}
 }
 
+// A line feed does not end the words of a string.
+func TestWordsIn(t *testing.T) {
+	for _, x := range []struct{ s, words string }{{"a b\n", "a,b\n"}, {"a b", "a,b"}, {" a  b ", ",a,,b,"}, {"\n", "\n"}, {"", ""}} {
+		w := text.WordsIn(x.s)
+		var got []string
+		for w.Left() > 0 {
+			got = append(got, w.Next())
+		}
+		if s := strings.Join(got, ","); s != x.words {
+			t.Errorf("words in %q: got %q", x.s, s)
+		}
+	}
+}
+
 // Integers are digits alone, without leading zeros.
 func TestInteger(t *testing.T) {
 	for _, x := range []struct {
@@ -179,6 +193,28 @@ func TestFields(t *testing.T) {
 	} {
 		if l, n, ok := text.Fields(x.line, "a", x.words, x.read, 2); !slices.Equal(l, x.l) || !slices.Equal(n, x.n) || ok != x.ok {
 			t.Errorf("Fields of %q: got %q, %v, %v", x.line, l, n, ok)
+		}
+	}
+}
+
+// Words that are left are so many words and any number of integers, and none is left then.
+func TestFieldsLeft(t *testing.T) {
+	for _, x := range []struct {
+		s     string
+		words int
+		l     []string
+		n     []int
+		ok    bool
+	}{
+		{"a b 1 42", 1, []string{"b"}, []int{1, 42}, true}, {"a", 0, nil, nil, true}, {"a b\n", 1, []string{"b\n"}, nil, true},
+		{"a", 1, nil, nil, false}, {"a ", 0, nil, nil, false}, {"a b ", 1, nil, nil, false}, {"a  b", 2, nil, nil, false}, {"a b 100", 1, nil, nil, false}, {"a b 1\n", 1, nil, nil, false}, {"a b c", 1, nil, nil, false},
+	} {
+		w := text.WordsIn(x.s)
+		w.Next()
+		if l, n, ok := w.Fields(x.words, text.Integer, 2); !slices.Equal(l, x.l) || !slices.Equal(n, x.n) || ok != x.ok {
+			t.Errorf("fields of %q: got %q, %v, %v", x.s, l, n, ok)
+		} else if ok && w.Left() != 0 {
+			t.Errorf("words after the fields of %q: %d", x.s, w.Left())
 		}
 	}
 }
